@@ -273,18 +273,26 @@ func TestFirstAndLastNodes(t *testing.T) {
 	}
 }
 
-func TestGroupArgumentsStay(t *testing.T) {
+// keysStay calls use with ever more keys, and fails if they or the room behind them were written into.
+func keysStay(t *testing.T, use func(g impl.Group)) {
+	t.Helper()
 	room := keysOf(9)
 	before := slices.Clone(room)
 	g := impl.Group{Servers: 4, Liars: 1, Clients: 2, Shelves: 2}
 	for count := range len(room) + 1 {
 		g.Keys = room[:count]
-		impl.GroupOk(g)
-		impl.QuorumOf(g)
-		impl.IsServer(g, 1)
-		impl.IsClient(g, 4)
+		use(g)
 	}
 	if !slices.Equal(room, before) {
 		t.Error("the keys or the room behind them were written into")
 	}
+}
+
+func TestGroupArgumentsStay(t *testing.T) {
+	keysStay(t, func(g impl.Group) {
+		impl.GroupOk(g)
+		impl.QuorumOf(g)
+		impl.IsServer(g, 1)
+		impl.IsClient(g, 4)
+	})
 }
