@@ -260,13 +260,21 @@ func TestNoSealOfAWrongClaim(t *testing.T) {
 	}
 }
 
-func TestNoSealInAWrongGroup(t *testing.T) {
-	shelves, key, long, short := groupOf(4, 1, 2, 0), groupOf(4, 1, 2, 2), groupOf(4, 1, 2, 2), groupOf(4, 1, 2, 2)
+// wrongGroups have one thing each that is not as it must be.
+func wrongGroups() []impl.Group {
+	key, long, short, one := groupOf(4, 1, 2, 2), groupOf(4, 1, 2, 2), groupOf(4, 1, 2, 2), groupOf(4, 1, 2, 2)
 	key.Keys[5] = 0
 	long.Keys = keysOf(7)
-	short.Keys = keysOf(1)
-	ends := impl.Group{Servers: math.MaxInt64, Liars: math.MinInt64, Clients: math.MaxInt64, Shelves: 2}
-	for _, g := range []impl.Group{{}, shelves, key, long, short, groupOf(4, 2, 2, 2), groupOf(11, 1, 2, 2), ends} {
+	short.Keys = keysOf(5)
+	one.Keys = keysOf(1)
+	ends := impl.Group{Servers: math.MaxInt64, Liars: math.MinInt64, Clients: math.MaxInt64, Shelves: 2, Keys: keysOf(6)}
+	return []impl.Group{
+		{}, key, long, short, one, ends, groupOf(4, 1, 2, 0), groupOf(4, 1, 2, 5), groupOf(4, 2, 2, 2), groupOf(4, -1, 2, 2), groupOf(11, 1, 2, 2),
+	}
+}
+
+func TestNoSealInAWrongGroup(t *testing.T) {
+	for _, g := range wrongGroups() {
 		for _, who := range []int64{math.MinInt64, -1, 0, 1, 3, 4, math.MaxInt64} {
 			noSeal(t, "a wrong group", g, claimOf(1, 1, 2, 4, 9), who)
 			noSeal(t, "a wrong group", g, impl.Claim{}, who)
