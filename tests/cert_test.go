@@ -467,8 +467,8 @@ func TestNothingIsProvenInAWrongGroup(t *testing.T) {
 	}
 }
 
-// sealsStay calls use with ever more of a list's room, and fails if the list or the room behind it was written into.
-func sealsStay(t *testing.T, room []impl.Seal, use func(list []impl.Seal)) {
+// listStays calls use with ever more of a list's room, and fails if the list or the room behind it was written into.
+func listStays[T comparable](t *testing.T, room []T, use func(list []T)) {
 	t.Helper()
 	before := slices.Clone(room)
 	for count := range len(room) + 1 {
@@ -484,8 +484,8 @@ func TestSealArgumentsStay(t *testing.T) {
 	other := sealList(3, 1, 0, 2, 3, 3, -1, 4)
 	// Wrong ones stand ahead of right ones, so that those could not be left out in place unseen.
 	room := append(sealList(2, 5, -4, 7), sealsOf(g, c, 3, 1, 3, 0)...)
-	sealsStay(t, other, func(b []impl.Seal) {
-		sealsStay(t, room, func(a []impl.Seal) {
+	listStays(t, other, func(b []impl.Seal) {
+		listStays(t, room, func(a []impl.Seal) {
 			impl.JoinSeals(a, b)
 			impl.JoinSeals(b, a)
 			impl.JoinSeals(a, a)
@@ -493,7 +493,7 @@ func TestSealArgumentsStay(t *testing.T) {
 			impl.JoinSeals(nil, a)
 		})
 	})
-	sealsStay(t, room, func(list []impl.Seal) {
+	listStays(t, room, func(list []impl.Seal) {
 		keysStay(t, func(g impl.Group) {
 			for _, c := range []impl.Claim{c, {}} {
 				impl.GoodSeals(g, c, list)
@@ -505,20 +505,22 @@ func TestSealArgumentsStay(t *testing.T) {
 	})
 }
 
-// scribble writes into all of an answer, and into the room behind it.
-func scribble(list []impl.Seal) {
+// fillRoom writes into all of a list, and into the room behind it.
+func fillRoom[T any](list []T, with T) {
 	list = list[:cap(list)]
 	for i := range list {
-		list[i] = sealOf(-77, -78)
+		list[i] = with
 	}
 }
+
+func scribble(list []impl.Seal) { fillRoom(list, sealOf(-77, -78)) }
 
 func TestSealAnswersAreNewMemory(t *testing.T) {
 	g, c := groupOf(4, 1, 2, 2), readyOf(9)
 	// Rising and right already, so that they could be handed back as they are.
 	rising, nothing := sealsOf(g, c, 0, 1, 2, 3), make([]impl.Seal, 0, 3)
 	for _, room := range [][]impl.Seal{rising, append(sealList(1, 1), sealsOf(g, c, 3, 0, 3)...)} {
-		sealsStay(t, room, func(list []impl.Seal) {
+		listStays(t, room, func(list []impl.Seal) {
 			scribble(impl.JoinSeals(list, nil))
 			scribble(impl.JoinSeals(nil, list))
 			scribble(impl.JoinSeals(list, nothing))

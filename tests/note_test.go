@@ -433,8 +433,8 @@ func TestAnAnswerHasAKindOfItsOwn(t *testing.T) {
 func TestNoteArgumentsStay(t *testing.T) {
 	cert, more := append(sealList(3, 9, 0, 4, 3, 1), make([]impl.Seal, 19)...), sealList(2, 5, -1, 7, 2, 6, 11, lastTag+1)
 	for _, kind := range append(kindsOfNotes(), 0, 7) {
-		sealsStay(t, cert, func(cert []impl.Seal) {
-			sealsStay(t, more, func(more []impl.Seal) {
+		listStays(t, cert, func(cert []impl.Seal) {
+			listStays(t, more, func(more []impl.Seal) {
 				keysStay(t, func(g impl.Group) {
 					n := bareNote(noteGroup(), kind)
 					n.Cert, n.More = cert, more

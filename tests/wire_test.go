@@ -584,29 +584,17 @@ func TestShortBytes(t *testing.T) {
 	}
 }
 
-// bytesStay calls use with ever more of the room, and fails if it was written into.
-func bytesStay(t *testing.T, room []byte, use func(b []byte)) {
-	t.Helper()
-	before := slices.Clone(room)
-	for count := range len(room) + 1 {
-		use(room[:count])
-		if !bytes.Equal(room, before) {
-			t.Fatalf("the first %d of %v or the room behind them were written into", count, before)
-		}
-	}
-}
-
 func TestWireArgumentsStay(t *testing.T) {
 	_, wires := wireNotes()
 	for _, wire := range wires {
-		bytesStay(t, append(wire, 0, 128, 7), func(b []byte) {
+		listStays(t, append(wire, 0, 128, 7), func(b []byte) {
 			keysStay(t, func(g impl.Group) { impl.ReadNote(g, b) })
 		})
 	}
 	cert, more := append(sealList(3, 9, 0, 4, 3, 1), make([]impl.Seal, 19)...), sealList(2, 5, 1, 7, 2, 6, 11, lastTag+1)
 	for _, kind := range append(kindsOfNotes(), 0, 7) {
-		sealsStay(t, cert, func(cert []impl.Seal) {
-			sealsStay(t, more, func(more []impl.Seal) {
+		listStays(t, cert, func(cert []impl.Seal) {
+			listStays(t, more, func(more []impl.Seal) {
 				keysStay(t, func(g impl.Group) {
 					n := bareNote(noteGroup(), kind)
 					n.Cert, n.More = cert, more
@@ -617,13 +605,7 @@ func TestWireArgumentsStay(t *testing.T) {
 	}
 }
 
-// scribbleBytes writes into all of an answer, and into the room behind it.
-func scribbleBytes(b []byte) {
-	b = b[:cap(b)]
-	for i := range b {
-		b[i] = 77
-	}
-}
+func scribbleBytes(b []byte) { fillRoom(b, 77) }
 
 func TestPackedBytesAreNewMemory(t *testing.T) {
 	notes, wires := wireNotes()
