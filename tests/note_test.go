@@ -59,6 +59,18 @@ func fullNote(g impl.Group, kind int64) impl.Note {
 	return n
 }
 
+// wrongFields each make any right note a wrong one.
+func wrongFields(g impl.Group) []func(n *impl.Note) {
+	return []func(n *impl.Note){
+		func(n *impl.Note) { n.Kind = 0 }, func(n *impl.Note) { n.Kind = 7 }, func(n *impl.Note) { n.Kind = -n.Kind },
+		func(n *impl.Note) { n.From, n.To = n.To, n.From }, func(n *impl.Note) { n.From = g.Servers + g.Clients }, func(n *impl.Note) { n.To = -1 },
+		func(n *impl.Note) { n.Op = impl.MaxOp + 1 }, func(n *impl.Note) { n.Op = math.MinInt64 }, func(n *impl.Note) { n.Op = math.MaxInt64 },
+		func(n *impl.Note) { n.Shelf = g.Shelves }, func(n *impl.Note) { n.Stamp = stampOf(0, 4) }, func(n *impl.Note) { n.Last = stampOf(-1, -1) },
+		func(n *impl.Note) { n.Cert = make([]impl.Seal, 21) }, func(n *impl.Note) { n.More = make([]impl.Seal, 21) },
+		func(n *impl.Note) { n.Cert = sealList(10, 0) }, func(n *impl.Note) { n.Cert = sealList(0, lastTag+1) },
+	}
+}
+
 func wantSeals(list []impl.Seal) bool {
 	bad := func(s impl.Seal) bool { return s.Who < 0 || s.Who > 9 || s.Tag < 0 || s.Tag > lastTag }
 	return len(list) <= 20 && !slices.ContainsFunc(list, bad)

@@ -819,26 +819,43 @@ func regAnswers(g impl.Group, c impl.Claim, use func(why string, answer func(r i
 	})
 }
 
+// regIsNew fails if two answers share memory, or the lists of one do, or an answer has some of that of r or of the Seals that were given.
+func regIsNew(t *testing.T, why string, r impl.Reg, given [][]impl.Seal, answer func() impl.Reg) {
+	t.Helper()
+	cert, opens, lists := roomOf(r.Cert), roomOf(r.Opens), make([][]impl.Seal, len(given))
+	for i, list := range given {
+		lists[i] = roomOf(list)
+	}
+	first, second := answer(), answer()
+	want := impl.Reg{Stamp: first.Stamp, Value: first.Value, Cert: slices.Clone(first.Cert), Opens: slices.Clone(first.Opens)}
+	scribble(second.Cert)
+	if !slices.Equal(second.Opens, want.Opens) {
+		t.Errorf("%s: the Opens of an answer are in the memory of its Cert", why)
+	}
+	scribbleReg(second)
+	if !sameReg(first, want) || !sameReg(answer(), want) {
+		t.Errorf("%s: two answers share memory", why)
+	}
+	for i, list := range given {
+		if !slices.Equal(roomOf(list), lists[i]) {
+			t.Fatalf("%s: an answer has some of the memory of given Seals", why)
+		}
+	}
+	if !slices.Equal(roomOf(r.Cert), cert) || !slices.Equal(roomOf(r.Opens), opens) {
+		t.Fatalf("%s: an answer has some of the memory of the Reg", why)
+	}
+}
+
+// roomOf is a copy of a list and of the room behind it.
+func roomOf[T any](list []T) []T { return slices.Clone(list[:cap(list)]) }
+
 func TestRegAnswersAreNewMemory(t *testing.T) {
 	g, c := noteGroup(), claimOf(impl.ClReady, 1, 6, 5, 8)
 	for _, r := range []impl.Reg{writtenReg(), {Opens: openList(4, 1, 1)}, {}, withOpens(writtenReg(), nil), {Cert: make([]impl.Seal, 0, 9), Opens: make([]impl.Open, 0, 9)}} {
 		cert := sealsOf(g, c, 0, 1, 2, 3)
 		r.Cert, r.Opens = append(r.Cert, sealList(1, 7)...)[:len(r.Cert)], append(r.Opens, openOf(6, 1, 5))[:len(r.Opens)]
-		oldCert, oldOpens, newCert := slices.Clone(r.Cert[:cap(r.Cert)]), slices.Clone(r.Opens[:cap(r.Opens)]), slices.Clone(cert)
 		regAnswers(g, c, func(why string, answer func(r impl.Reg, cert []impl.Seal) impl.Reg) {
-			first, second := answer(r, cert), answer(r, cert)
-			want := impl.Reg{Stamp: first.Stamp, Value: first.Value, Cert: slices.Clone(first.Cert), Opens: slices.Clone(first.Opens)}
-			scribble(second.Cert)
-			if !slices.Equal(second.Opens, want.Opens) {
-				t.Errorf("%s: the Opens of an answer are in the memory of its Cert", why)
-			}
-			scribbleReg(second)
-			if !sameReg(first, want) || !sameReg(answer(r, cert), want) {
-				t.Errorf("%s: two answers share memory", why)
-			}
-			if !slices.Equal(r.Cert[:cap(r.Cert)], oldCert) || !slices.Equal(r.Opens[:cap(r.Opens)], oldOpens) || !slices.Equal(cert, newCert) {
-				t.Fatalf("%s: an answer has some of the memory of an argument", why)
-			}
+			regIsNew(t, why, r, [][]impl.Seal{cert}, func() impl.Reg { return answer(r, cert) })
 		})
 		kept := impl.WithOpen(r, openOf(5, 8, 77))
 		want := withOpens(impl.Reg{Stamp: kept.Stamp, Value: kept.Value, Cert: slices.Clone(kept.Cert)}, slices.Clone(kept.Opens))

@@ -353,14 +353,7 @@ func TestNotesThatAreNotPacked(t *testing.T) {
 				notRead(t, field.name, g, wantBytes(n))
 			}
 		}
-		for _, wrong := range []func(n *impl.Note){
-			func(n *impl.Note) { n.Kind = 0 }, func(n *impl.Note) { n.Kind = 7 }, func(n *impl.Note) { n.Kind = -n.Kind },
-			func(n *impl.Note) { n.From, n.To = n.To, n.From }, func(n *impl.Note) { n.From = 6 }, func(n *impl.Note) { n.To = -1 },
-			func(n *impl.Note) { n.Op = impl.MaxOp + 1 }, func(n *impl.Note) { n.Op = math.MinInt64 }, func(n *impl.Note) { n.Op = math.MaxInt64 },
-			func(n *impl.Note) { n.Shelf = 2 }, func(n *impl.Note) { n.Stamp = stampOf(0, 4) }, func(n *impl.Note) { n.Last = stampOf(-1, -1) },
-			func(n *impl.Note) { n.Cert = make([]impl.Seal, 21) }, func(n *impl.Note) { n.More = make([]impl.Seal, 21) },
-			func(n *impl.Note) { n.Cert = sealList(10, 0) }, func(n *impl.Note) { n.Cert = sealList(0, lastTag+1) },
-		} {
+		for _, wrong := range wrongFields(g) {
 			n := fullNote(g, kind)
 			wrong(&n)
 			notPacked(t, "a wrong note", g, n)
