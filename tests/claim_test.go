@@ -273,6 +273,15 @@ func wrongGroups() []impl.Group {
 	}
 }
 
+// groupsThatAreWrong have, too, more shelves than anyone could make room for.
+func groupsThatAreWrong() []impl.Group {
+	groups := wrongGroups()
+	for _, shelves := range []int64{math.MinInt64, -1, 0, 5, 1 << 40, math.MaxInt64} {
+		groups = append(groups, groupOf(4, 1, 3, shelves))
+	}
+	return groups
+}
+
 func TestNoSealInAWrongGroup(t *testing.T) {
 	for _, g := range wrongGroups() {
 		for _, who := range []int64{math.MinInt64, -1, 0, 1, 3, 4, math.MaxInt64} {

@@ -267,11 +267,7 @@ func TestJournalsWithAWrongRec(t *testing.T) {
 }
 
 func TestJournalsInAWrongGroup(t *testing.T) {
-	groups := wrongGroups()
-	for _, shelves := range []int64{math.MinInt64, -1, 0, 5, 1 << 40, math.MaxInt64} {
-		groups = append(groups, groupOf(4, 1, 3, shelves))
-	}
-	for _, g := range groups {
+	for _, g := range groupsThatAreWrong() {
 		for _, j := range append(emptyJournals(), journalOf(6, sixRecs()), journalOf(0, sixRecs()), journalOf(2, sixRecs())) {
 			wrongJournal(t, "a wrong group", g, j)
 		}

@@ -803,11 +803,7 @@ func TestWrongRecsAreNotReplayed(t *testing.T) {
 }
 
 func TestNothingIsReplayedInAWrongGroup(t *testing.T) {
-	groups := wrongGroups()
-	for _, shelves := range []int64{math.MinInt64, -1, 0, 5, 1 << 40, math.MaxInt64} {
-		groups = append(groups, groupOf(4, 1, 3, shelves))
-	}
-	for _, g := range groups {
+	for _, g := range groupsThatAreWrong() {
 		for _, list := range [][]impl.Rec{nil, {}, sixRecs(), sixRecs()[:1], {{}}} {
 			notReplayed(t, "a wrong group", g, list)
 		}
