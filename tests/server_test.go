@@ -27,14 +27,16 @@ func freshServer(g impl.Group) impl.Server {
 	return impl.Server{Node: 2, Regs: make([]impl.Reg, g.Shelves)}
 }
 
-// fullOut are so many Notes from that server.
-func fullOut(node int64, count int) []impl.Note {
+// outIn are so many Notes from that server to the first client of g.
+func outIn(g impl.Group, node int64, count int) []impl.Note {
 	out := []impl.Note{}
 	for i := range count {
-		out = append(out, impl.Note{Kind: impl.NtTell, From: node, To: 4, Op: int64(i)})
+		out = append(out, impl.Note{Kind: impl.NtTell, From: node, To: g.Servers, Op: int64(i)})
 	}
 	return out
 }
+
+func fullOut(node int64, count int) []impl.Note { return outIn(readyGroup(), node, count) }
 
 func withOut(s impl.Server, out []impl.Note) impl.Server {
 	s.Out = out
@@ -49,8 +51,10 @@ func sameServer(a, b impl.Server) bool {
 
 func wantServerOk(g impl.Group, s impl.Server) bool {
 	regs, is := wantReplayed(g, allOf(s.Journal))
-	ofAnother := func(n impl.Note) bool { return n.From != s.Node }
-	return is && s.Node >= 0 && s.Node < g.Servers && sameRegs(s.Regs, regs) && len(s.Out) <= 40 && !slices.ContainsFunc(s.Out, ofAnother)
+	for _, n := range s.Out {
+		is = is && n.From == s.Node && wantNoteOk(g, n)
+	}
+	return is && s.Node >= 0 && s.Node < g.Servers && sameRegs(s.Regs, regs) && len(s.Out) <= 40
 }
 
 func wantFlushed(g impl.Group, s impl.Server) (impl.Server, []impl.Note) {
@@ -228,7 +232,7 @@ func TestNodesOfServers(t *testing.T) {
 			s := serverOn(g, node, impl.Journal{})
 			is := node >= 0 && node < g.Servers
 			checkServer(t, "a Node", g, s, is)
-			checkServer(t, "a Node with something to send", g, withOut(s, fullOut(node, 3)), is)
+			checkServer(t, "a Node with something to send", g, withOut(s, outIn(g, node, 3)), is)
 			if !is {
 				wrongServer(t, "no server", g, s)
 			}
@@ -390,27 +394,121 @@ func TestHowMuchServersMaySend(t *testing.T) {
 	wrongServer(t, "all from another", g, s)
 	s.Node = 3
 	checkServer(t, "all from itself", g, s, true)
-	zero := serverOn(g, 0, impl.Journal{}, impl.Note{})
-	checkServer(t, "the zero Note, from the server 0", g, zero, true)
-	zero.Node = 1
-	wrongServer(t, "the zero Note, from another", g, zero)
+	wrongServer(t, "the zero Note, from the server 0", g, serverOn(g, 0, impl.Journal{}, impl.Note{}))
+	wrongServer(t, "the zero Note, from another", g, serverOn(g, 1, impl.Journal{}, impl.Note{}))
 }
 
-// The document asks of what is to be sent only that it is from the server, and not that it is NoteOk.
-func TestWhatServersMaySend(t *testing.T) {
+// sentBy fails unless the server 2 of readyGroup, with nothing or more ahead and behind, may have n to send, or not.
+func sentBy(t *testing.T, why string, n impl.Note, want bool) {
+	t.Helper()
+	g := readyGroup()
+	checkNote(t, why, g, n, want)
+	for _, ahead := range []int{0, 1, 39} {
+		out := append(fullOut(2, ahead), n)
+		for _, behind := range []int{0, 39 - ahead} {
+			s := withOut(busyServer(), append(slices.Clone(out), fullOut(2, behind)...))
+			if got := impl.ServerOk(g, s); got != want || wantServerOk(g, s) != want {
+				t.Errorf("%s: with %+v behind %d and ahead of %d, ServerOk is %v", why, n, ahead, behind, got)
+			}
+		}
+	}
+	s := withOut(freshServer(g), []impl.Note{n})
+	if want {
+		checkServer(t, why, g, s, true)
+		return
+	}
+	wrongServer(t, why, g, s)
+}
+
+// kindsToSend are what a server sends, from the server 2, with all or with nothing that each kind has.
+func kindsToSend() []impl.Note {
+	list := []impl.Note{}
+	for _, kind := range []int64{impl.NtTell, impl.NtAm, impl.NtDone} {
+		for _, n := range []impl.Note{bareNote(readyGroup(), kind), fullNote(readyGroup(), kind)} {
+			n.From = 2
+			list = append(list, n)
+		}
+	}
+	return list
+}
+
+func TestKindsThatServersMaySend(t *testing.T) {
+	g := readyGroup()
+	for _, n := range kindsToSend() {
+		sentBy(t, "what a server sends", n, true)
+	}
+	for _, kind := range append(kindsOfNotes(), math.MinInt64, -2, -1, 0, 7, 8, math.MaxInt64) {
+		for _, n := range kindsToSend() {
+			n.Kind = kind
+			sentBy(t, "a kind", n, kind == impl.NtTell || kind == impl.NtAm || kind == impl.NtDone)
+		}
+	}
+	for _, kind := range []int64{impl.NtAsk, impl.NtReady, impl.NtWrite} {
+		for _, n := range []impl.Note{bareNote(g, kind), fullNote(g, kind)} {
+			checkNote(t, "what a client sends", g, n, true)
+			wrongServer(t, "what a client sends", g, withOut(freshServer(g), []impl.Note{n}))
+			n.From = 2
+			sentBy(t, "what a client sends, from a server", n, false)
+		}
+	}
+}
+
+func TestWrongNotesToSend(t *testing.T) {
 	g := readyGroup()
 	for _, spoil := range wrongFields(g) {
-		s := serverCopy(busyServer())
-		for i := range s.Out {
-			spoil(&s.Out[i])
-			s.Out[i].From = 2
+		for _, n := range kindsToSend() {
+			spoil(&n)
+			n.From = 2
+			sentBy(t, "wrong", n, wantNoteOk(g, n))
 		}
-		checkServer(t, "wrong Notes to send", g, s, true)
+		for place := range busyServer().Out {
+			s := serverCopy(busyServer())
+			spoil(&s.Out[place])
+			wrongServer(t, "one that is wrong", g, s)
+		}
 	}
-	for _, kind := range kindsOfNotes() {
-		n := fullNote(g, kind)
-		n.From = 2
-		checkServer(t, "a kind to send", g, withOut(busyServer(), []impl.Note{n, n}), true)
+	for _, field := range noteFields() {
+		for _, n := range kindsToSend() {
+			field.set(&n)
+			sentBy(t, field.name, n, slices.Contains(field.kinds, n.Kind))
+		}
+	}
+}
+
+func TestLimitsOfNotesToSend(t *testing.T) {
+	for _, node := range nodesAbout() {
+		for _, n := range kindsToSend() {
+			n.To = node
+			sentBy(t, "to a node", n, node >= 4 && node <= 6)
+		}
+	}
+	limits := []struct {
+		why string
+		set func(n *impl.Note, past int64)
+	}{
+		{"Op", func(n *impl.Note, past int64) { n.Op = impl.MaxOp + past }},
+		{"Op, below", func(n *impl.Note, past int64) { n.Op = -past }},
+		{"Shelf", func(n *impl.Note, past int64) { n.Shelf = 1 + past }},
+		{"Shelf, below", func(n *impl.Note, past int64) { n.Shelf = -past }},
+		{"Value", func(n *impl.Note, past int64) { n.Value = impl.MaxValue + past }},
+		{"Value, below", func(n *impl.Note, past int64) { n.Value = -past }},
+		{"Count", func(n *impl.Note, past int64) { n.Stamp = stampOf(impl.MaxCount+past, 4) }},
+		{"Count, below", func(n *impl.Note, past int64) { n.Stamp = stampOf(-past, 0) }},
+		{"Client", func(n *impl.Note, past int64) { n.Stamp = stampOf(1, 15+past) }},
+		{"Client, beside no Count", func(n *impl.Note, past int64) { n.Stamp = stampOf(0, past) }},
+		{"Seals", func(n *impl.Note, past int64) { n.Cert = make([]impl.Seal, impl.MaxSeals+past) }},
+		{"Who", func(n *impl.Note, past int64) { n.Cert = sealList(0, 1, 9+past, 5) }},
+		{"Who, below", func(n *impl.Note, past int64) { n.Cert = sealList(0, 1, -past, 5) }},
+		{"Tag", func(n *impl.Note, past int64) { n.Cert = sealList(0, 1, 1, lastTag+past) }},
+		{"Tag, below", func(n *impl.Note, past int64) { n.Cert = sealList(0, 1, 1, -past) }},
+	}
+	for _, limit := range limits {
+		for _, n := range kindsToSend() {
+			limit.set(&n, 0)
+			sentBy(t, limit.why, n, true)
+			limit.set(&n, 1)
+			sentBy(t, limit.why+", passed by one", n, false)
+		}
 	}
 }
 
@@ -426,6 +524,11 @@ func TestServersInAWrongGroup(t *testing.T) {
 	wrongServer(t, "more servers", groupOf(5, 1, 3, 2), busyServer())
 	// Nothing is sealed in it, so that it is right wherever there are two shelves.
 	checkServer(t, "more servers", groupOf(5, 1, 3, 2), freshServer(readyGroup()), true)
+	// What is to be sent must be right there, too: 4 is no client then, and 6 is none where they are fewer.
+	wrongServer(t, "more servers, and something to send", groupOf(5, 1, 3, 2), withOut(freshServer(readyGroup()), fullOut(2, 1)))
+	toLast := withOut(freshServer(readyGroup()), []impl.Note{{Kind: impl.NtTell, From: 2, To: 6}})
+	checkServer(t, "to the last client", readyGroup(), toLast, true)
+	wrongServer(t, "to the last client, with fewer of them", groupOf(4, 1, 2, 2), toLast)
 	wrongServer(t, "fewer servers", groupOf(2, 0, 3, 2), freshServer(readyGroup()))
 }
 
@@ -677,13 +780,13 @@ func roomFor(s impl.Server) impl.Server {
 	return s
 }
 
-// roomyServers have spare room behind all their lists, and something or nothing in them; the last one is not right.
+// roomyServers have spare room behind all their lists, and something or nothing in them; the last two are not right.
 func roomyServers() []impl.Server {
 	more := withOut(busyServer(), []impl.Note{wrote(readyGroup(), readyNote(), stampOf(5, 5), 2, 0, 1, 2), {}})
 	more.Out[0].From, more.Out[1].From = 2, 2
 	wrong := busyServer()
 	wrong.Regs[1].Value--
-	list := append(someServers()[:7], more, withOut(busyServer(), fullOut(2, 40)), wrong)
+	list := append(someServers()[:7], withOut(busyServer(), kindsToSend()), withOut(busyServer(), fullOut(2, 40)), more, wrong)
 	for i, s := range list {
 		list[i] = roomFor(s)
 	}
